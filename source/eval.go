@@ -54,22 +54,22 @@ func must(so bool) {
 func (v *eval) value(e *part, names *scope) int {
 	v.look()
 	switch e.kind {
-	case numberPart:
+	case NumberPart:
 		return v.f.Of(e.number)
-	case namePart:
+	case NamePart:
 		return names.find(e.name.text).is
-	case callPart:
+	case CallPart:
 		return v.call(e, names)
-	case minusPart:
+	case MinusPart:
 		return v.f.Neg(v.value(e.parts[0], names))
-	case letPart:
+	case LetPart:
 		is := v.value(e.parts[0], names)
 		return v.value(e.parts[1], names.with(e.name.text, is))
-	case needPart:
+	case NeedPart:
 		a, b := v.two(e, names)
 		must(a == b)
 		return v.value(e.parts[2], names)
-	case ifPart:
+	case IfPart:
 		if v.value(e.parts[0], names) == 0 {
 			return v.value(e.parts[2], names)
 		}
@@ -89,13 +89,13 @@ func (v *eval) two(e *part, names *scope) (int, int) {
 func (v *eval) reckon(e *part, names *scope) int {
 	a, b := v.two(e, names)
 	switch e.kind {
-	case addPart:
+	case AddPart:
 		return v.f.Add(a, b)
-	case subPart:
+	case SubPart:
 		return v.f.Sub(a, b)
-	case mulPart:
+	case MulPart:
 		return v.f.Mul(a, b)
-	case divPart:
+	case DivPart:
 		must(b != 0)
 		return v.f.Div(a, b)
 	}

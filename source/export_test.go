@@ -23,21 +23,21 @@ func (e *part) full() string {
 	for _, inner := range e.parts {
 		own = append(own, inner.full())
 	}
-	between := map[partKind]string{addPart: " + ", subPart: " - ", mulPart: " * ", divPart: " / ", samePart: " == "}
+	between := map[PartKind]string{AddPart: " + ", SubPart: " - ", MulPart: " * ", DivPart: " / ", SamePart: " == "}
 	switch e.kind {
-	case numberPart:
+	case NumberPart:
 		return strconv.Itoa(e.number)
-	case namePart:
+	case NamePart:
 		return e.name.text
-	case callPart:
+	case CallPart:
 		return e.name.text + "(" + strings.Join(own, ", ") + ")"
-	case minusPart:
+	case MinusPart:
 		return "(-" + own[0] + ")"
-	case letPart:
+	case LetPart:
 		return "(let " + e.name.text + " = " + own[0] + "; " + own[1] + ")"
-	case needPart:
+	case NeedPart:
 		return "(need " + own[0] + " == " + own[1] + "; " + own[2] + ")"
-	case ifPart:
+	case IfPart:
 		return "(if " + own[0] + " then " + own[1] + " else " + own[2] + ")"
 	}
 	return "(" + own[0] + between[e.kind] + own[1] + ")"

@@ -69,15 +69,15 @@ func (f function) checkWithin(calls map[signature]int) {
 // nameFault tells what is wrong with the name of a part itself.
 func (e *part) nameFault(names *scope, calls map[signature]int) api.Errno {
 	switch e.kind {
-	case letPart:
+	case LetPart:
 		if names.find(e.name.text) != nil {
 			return api.ErrSame
 		}
-	case namePart:
+	case NamePart:
 		if names.find(e.name.text) == nil {
 			return api.ErrName
 		}
-	case callPart:
+	case CallPart:
 		if _, ok := calls[signature{e.name.text, len(e.parts)}]; !ok {
 			return api.ErrName
 		}

@@ -2,22 +2,23 @@ package source
 
 import "iter"
 
-// partKind is what a part of a program is.
-type partKind int
+// PartKind is what a part of a program is.
+type PartKind int
 
+// What a part is.
 const (
-	numberPart partKind = iota
-	namePart
-	callPart
-	minusPart // - ahead of a part
-	addPart
-	subPart
-	mulPart
-	divPart
-	samePart // a == b
-	letPart
-	needPart
-	ifPart
+	NumberPart PartKind = iota
+	NamePart
+	CallPart
+	MinusPart // - ahead of a part
+	AddPart
+	SubPart
+	MulPart
+	DivPart
+	SamePart // a == b
+	LetPart
+	NeedPart
+	IfPart
 )
 
 // name is a name of a program, and where it stands.
@@ -33,9 +34,18 @@ type function struct {
 	body     *part
 }
 
+// names are those in brackets.
+func (f function) names() []string {
+	names := make([]string, len(f.brackets))
+	for i, n := range f.brackets {
+		names[i] = n.text
+	}
+	return names
+}
+
 // part is an expression: what it is, and its own parts, from the left.
 type part struct {
-	kind   partKind
+	kind   PartKind
 	name   name // of a name, a call, a let
 	number int  // of a number
 	parts  []*part
@@ -54,7 +64,7 @@ func (e *part) walk(names *scope, yield func(*part, *scope) bool) bool {
 	}
 	for i, inner := range e.parts {
 		there := names
-		if e.kind == letPart && i == 1 {
+		if e.kind == LetPart && i == 1 {
 			there = names.with(e.name.text, 0)
 		}
 		if !inner.walk(there, yield) {

@@ -17,11 +17,11 @@ const (
 
 func (e *part) rank() rank {
 	switch e.kind {
-	case letPart, needPart, ifPart, samePart:
+	case LetPart, NeedPart, IfPart, SamePart:
 		return exprRank
-	case addPart, subPart:
+	case AddPart, SubPart:
 		return sumRank
-	case mulPart, divPart:
+	case MulPart, DivPart:
 		return productRank
 	}
 	return partRank
@@ -29,37 +29,33 @@ func (e *part) rank() rank {
 
 // line is a function as text.
 func (f function) line() string {
-	names := make([]string, len(f.brackets))
-	for i, n := range f.brackets {
-		names[i] = n.text
-	}
-	return "fn " + f.name.text + "(" + strings.Join(names, ", ") + ") = " + f.body.text() + "\n"
+	return "fn " + f.name.text + "(" + strings.Join(f.names(), ", ") + ") = " + f.body.text() + "\n"
 }
 
 // text is an expression as text, without brackets round it.
 func (e *part) text() string {
 	switch e.kind {
-	case numberPart:
+	case NumberPart:
 		return strconv.Itoa(e.number)
-	case namePart:
+	case NamePart:
 		return e.name.text
-	case callPart:
+	case CallPart:
 		return e.name.text + "(" + strings.Join(e.args(), ", ") + ")"
-	case minusPart:
+	case MinusPart:
 		return "-" + e.own(0, partRank)
-	case addPart:
+	case AddPart:
 		return e.own(0, sumRank) + " + " + e.own(1, productRank)
-	case subPart:
+	case SubPart:
 		return e.own(0, sumRank) + " - " + e.own(1, productRank)
-	case mulPart:
+	case MulPart:
 		return e.own(0, productRank) + " * " + e.own(1, partRank)
-	case divPart:
+	case DivPart:
 		return e.own(0, productRank) + " / " + e.own(1, partRank)
-	case samePart:
+	case SamePart:
 		return e.own(0, sumRank) + " == " + e.own(1, sumRank)
-	case letPart:
+	case LetPart:
 		return "let " + e.name.text + " = " + e.own(0, exprRank) + "; " + e.own(1, exprRank)
-	case needPart:
+	case NeedPart:
 		return "need " + e.own(0, sumRank) + " == " + e.own(1, sumRank) + "; " + e.own(2, exprRank)
 	}
 	return "if " + e.own(0, exprRank) + " then " + e.own(1, exprRank) + " else " + e.own(2, exprRank)

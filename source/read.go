@@ -96,7 +96,7 @@ func (r *reader) expr() *part {
 	}
 	left := r.sum()
 	if r.next.kind == sameToken {
-		return r.pair(samePart, left, r.sum)
+		return r.pair(SamePart, left, r.sum)
 	}
 	return left
 }
@@ -108,7 +108,7 @@ func (r *reader) let() *part {
 	r.take(isToken)
 	is := r.expr()
 	r.take(endingToken)
-	return &part{kind: letPart, name: called, parts: []*part{is, r.expr()}}
+	return &part{kind: LetPart, name: called, parts: []*part{is, r.expr()}}
 }
 
 func (r *reader) need() *part {
@@ -118,7 +118,7 @@ func (r *reader) need() *part {
 	r.take(sameToken)
 	right := r.sum()
 	r.take(endingToken)
-	return &part{kind: needPart, parts: []*part{left, right, r.expr()}}
+	return &part{kind: NeedPart, parts: []*part{left, right, r.expr()}}
 }
 
 func (r *reader) choice() *part {
@@ -128,7 +128,7 @@ func (r *reader) choice() *part {
 	r.take(thenToken)
 	first := r.expr()
 	r.take(elseToken)
-	return &part{kind: ifPart, parts: []*part{asked, first, r.expr()}}
+	return &part{kind: IfPart, parts: []*part{asked, first, r.expr()}}
 }
 
 func (r *reader) sum() *part {
@@ -136,9 +136,9 @@ func (r *reader) sum() *part {
 	for {
 		switch r.next.kind {
 		case plusToken:
-			left = r.pair(addPart, left, r.product)
+			left = r.pair(AddPart, left, r.product)
 		case minusToken:
-			left = r.pair(subPart, left, r.product)
+			left = r.pair(SubPart, left, r.product)
 		default:
 			return left
 		}
@@ -150,9 +150,9 @@ func (r *reader) product() *part {
 	for {
 		switch r.next.kind {
 		case timesToken:
-			left = r.pair(mulPart, left, r.part)
+			left = r.pair(MulPart, left, r.part)
 		case overToken:
-			left = r.pair(divPart, left, r.part)
+			left = r.pair(DivPart, left, r.part)
 		default:
 			return left
 		}
@@ -160,7 +160,7 @@ func (r *reader) product() *part {
 }
 
 // pair reads the sign that stands next and what is behind it; what is ahead of it is read.
-func (r *reader) pair(kind partKind, left *part, behind func() *part) *part {
+func (r *reader) pair(kind PartKind, left *part, behind func() *part) *part {
 	r.take(r.next.kind)
 	return &part{kind: kind, parts: []*part{left, behind()}}
 }
@@ -181,9 +181,9 @@ func (r *reader) part() *part {
 func (r *reader) named() *part {
 	called := r.name()
 	if r.next.kind == openToken {
-		return &part{kind: callPart, name: called, parts: list(r, r.expr)}
+		return &part{kind: CallPart, name: called, parts: list(r, r.expr)}
 	}
-	return &part{kind: namePart, name: called}
+	return &part{kind: NamePart, name: called}
 }
 
 func (r *reader) inBrackets() *part {
@@ -197,7 +197,7 @@ func (r *reader) inBrackets() *part {
 func (r *reader) minus() *part {
 	r.enter(minusToken)
 	defer r.leave()
-	return &part{kind: minusPart, parts: []*part{r.part()}}
+	return &part{kind: MinusPart, parts: []*part{r.part()}}
 }
 
 func (r *reader) number() *part {
@@ -206,5 +206,5 @@ func (r *reader) number() *part {
 	if err != nil { // digits alone are wrong in one way only: they are too many
 		panic(fault{t.at, api.ErrRange})
 	}
-	return &part{kind: numberPart, number: n}
+	return &part{kind: NumberPart, number: n}
 }
