@@ -48,7 +48,7 @@ func (r *run) next() api.Ins {
 
 // step does one instruction. The registers wait till all cells are looked at and told, as what they become hangs on these.
 func (r *run) step(in api.Ins) api.Step {
-	s := api.Step{PC: r.pc, FP: r.fp, AP: r.ap, RV: r.rv, At: cells(r.f, in, r.fp, r.ap)}
+	s := api.Step{PC: r.pc, FP: r.fp, AP: r.ap, RV: r.rv, At: Cells(r.f, in, r.fp, r.ap)}
 	r.work(in, s.At)
 	for i, at := range s.At {
 		s.Is[i] = r.told[at]
@@ -57,8 +57,8 @@ func (r *run) step(in api.Ins) api.Step {
 	return s
 }
 
-// cells are those of an instruction. In the place of one that it has not stands 0, as the cell 0 is 0 in every run.
-func cells(f *field.Field, in api.Ins, fp, ap int) [3]int {
+// Cells are those of an instruction. In the place of one that it has not stands 0, as the cell 0 is 0 in every run.
+func Cells(f *field.Field, in api.Ins, fp, ap int) [3]int {
 	switch in.Op {
 	case api.OpAdd, api.OpSub, api.OpMul, api.OpDiv, api.OpSame:
 		return [3]int{f.Add(fp, in.A), f.Add(fp, in.B), f.Add(fp, in.C)}

@@ -5,6 +5,7 @@ import (
 	"testing"
 
 	"attest/api"
+	"attest/machine"
 )
 
 // ahead is code that comes to an instruction, number 8, as its step 7: with fp 20, ap 30, rv 44; the cells 18 to 22 being
@@ -126,5 +127,23 @@ func TestM2OtherOps(t *testing.T) {
 	for _, op := range []int{-1, 14, 15, 97, 97 + api.OpSet, api.OpSet - 97, 64, math.MaxInt, math.MinInt} {
 		endsBy(t, 97, ahead(ins(op, 0, 0, 0)), 9, api.ErrStuck)
 		endsBy(t, 97, code(0, ins(op, -1, 0, 0)), 1, api.ErrStuck)
+	}
+}
+
+func TestM2CellsAreThoseOfSteps(t *testing.T) {
+	for op := range 14 {
+		in := ins(op, 1, 1, 1)
+		for _, step := range walk(t, 97, ahead(jump(9)), 9) {
+			far := machine.Cells(fieldOf(t, 97), in, step.FP-97, step.AP+97)
+			same(t, far, machine.Cells(fieldOf(t, 97), in, step.FP, step.AP), "the cells of %v with other numbers", in)
+		}
+	}
+	c := code(2, set(0, 2), ins(api.OpPass, 0, 0, 0), ins(api.OpCall, 5, 2, 0), ins(api.OpTake, 1, 0, 0), halt(1),
+		ins(api.OpAdd, 0, 0, 1), ins(api.OpBack, 1, 0, 0))
+	for _, step := range walk(t, 97, c, 9) {
+		same(t, machine.Cells(fieldOf(t, 97), c.List[step.PC], step.FP, step.AP), step.At, "the cells of %v", step)
+	}
+	for _, op := range []int{-1, 14, api.OpJump, math.MaxInt} {
+		same(t, machine.Cells(fieldOf(t, 97), ins(op, 1, 1, 1), 20, 30), [3]int{}, "the cells of the Op %d", op)
 	}
 }
