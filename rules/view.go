@@ -13,6 +13,54 @@ const (
 	lastRules   = 24 // of the last row
 )
 
+// Rows is of which rows a rule says something.
+type Rows int
+
+// Of which rows a rule says something.
+const (
+	AllRows Rows = iota
+	AllButLast
+	FirstRow
+	LastRow
+)
+
+// RowsOf tells of which rows a rule says something, by its number.
+func RowsOf(c api.Code, rule int) Rows {
+	l := len(c.List)
+	switch {
+	case rule < l+onwardRules:
+		return AllRows
+	case rule < l+firstRules:
+		return AllButLast
+	case rule < l+lastRules:
+		return FirstRow
+	}
+	return LastRow
+}
+
+// has tells whether a row, one of so many of which last is the last, is one of these.
+func (r Rows) has(row, last int) bool {
+	switch r {
+	case AllButLast:
+		return row != last
+	case FirstRow:
+		return row == 0
+	case LastRow:
+		return row == last
+	}
+	return true
+}
+
+// Said gives what each rule says is 0, by its number, of a row and the next one, wherever they stand; nothing, if one of them
+// has not Width elements, or there is no instruction.
+func Said(f *field.Field, c api.Code, outcome int, row, next []int) []int {
+	if len(c.List) == 0 || len(row) != Width(c) || len(next) != Width(c) {
+		return nil
+	}
+	v := &view{Field: f, code: c, outcome: outcome, row: row, next: next}
+	return v.said()
+}
+
 // view is what the rules say something of: a row and the next one, of some code.
 type view struct {
 	*field.Field
@@ -25,26 +73,12 @@ type view struct {
 func brokenIn(f *field.Field, c api.Code, outcome int, rows [][]int, i int) int {
 	last := len(rows) - 1
 	// Of the last row nothing is asked that speaks of a next one, so that any row may stand for it.
-	v := &view{Field: f, code: c, outcome: outcome, row: rows[i], next: rows[min(i+1, last)]}
-	for rule, is := range v.said() {
-		if is != 0 && speaksOf(rule-len(c.List), i, last) {
+	for rule, is := range Said(f, c, outcome, rows[i], rows[min(i+1, last)]) {
+		if is != 0 && RowsOf(c, rule).has(i, last) {
 			return rule
 		}
 	}
 	return -1
-}
-
-// speaksOf tells whether a rule says something of a row. The rule has its number less that of the instructions.
-func speaksOf(rule, row, last int) bool {
-	switch {
-	case rule < onwardRules:
-		return true
-	case rule < firstRules:
-		return row != last
-	case rule < lastRules:
-		return row == 0
-	}
-	return row == last
 }
 
 // said gives what each rule says is 0, by its number.
